@@ -218,7 +218,7 @@ func takesByPlaces(c impl.Checker, w string) bool {
 	return c.Accept[states[len(states)-1]]
 }
 
-func sameStacks(a, b [][]int64) bool {
+func sameLists(a, b [][]int64) bool {
 	return slices.EqualFunc(a, b, func(x, y []int64) bool { return slices.Equal(x, y) })
 }
 

@@ -48,15 +48,13 @@ func TestBothAndEither(t *testing.T) {
 	}
 }
 
-// checkPairs checks all moves of a product, also those of pairs to which no
-// moves lead.
-func checkPairs(t *testing.T, c, d, product impl.Checker, accepting func(a, b bool) bool) {
-	t.Helper()
+// productByPairs makes a product pair by pair; it may be too large.
+func productByPairs(c, d impl.Checker, accepting func(a, b bool) bool) impl.Checker {
 	n, m := int64(len(d.Accept)), d.Stack
-	want := impl.Checker{Stack: c.Stack * m, Start: c.Start*n + d.Start}
+	product := impl.Checker{Stack: c.Stack * m, Start: c.Start*n + d.Start}
 	for s := range c.Accept {
 		for u := range d.Accept {
-			want.Accept = append(want.Accept, accepting(c.Accept[s], d.Accept[u]))
+			product.Accept = append(product.Accept, accepting(c.Accept[s], d.Accept[u]))
 			var calls []impl.Push
 			var returns [][]int64
 			var inner []int64
@@ -73,10 +71,17 @@ func checkPairs(t *testing.T, c, d, product impl.Checker, accepting func(a, b bo
 				returns = append(returns, list)
 				inner = append(inner, c.Inner[s][kind]*n+d.Inner[u][kind])
 			}
-			want.Call, want.Return, want.Inner = append(want.Call, calls), append(want.Return, returns), append(want.Inner, inner)
+			product.Call, product.Return, product.Inner = append(product.Call, calls), append(product.Return, returns), append(product.Inner, inner)
 		}
 	}
-	if !impl.SameChecker(product, want) {
+	return product
+}
+
+// checkPairs checks all moves of a product, also those of pairs to which no
+// moves lead.
+func checkPairs(t *testing.T, c, d, product impl.Checker, accepting func(a, b bool) bool) {
+	t.Helper()
+	if want := productByPairs(c, d, accepting); !impl.SameChecker(product, want) {
 		t.Errorf("%v and %v: got %v, want %v", c, d, product, want)
 	}
 }

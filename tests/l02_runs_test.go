@@ -68,7 +68,7 @@ func TestRuns(t *testing.T) {
 			if !slices.Equal(states, wantStates) || !slices.Equal(stack, wantStacks[len(w)]) {
 				t.Fatalf("%q: got the run %v and the stack %v, want %v and %v", w, states, stack, wantStates, wantStacks[len(w)])
 			}
-			if !sameStacks(stacks, wantStacks) || takes != c.Accept[wantStates[len(w)]] {
+			if !sameLists(stacks, wantStacks) || takes != c.Accept[wantStates[len(w)]] {
 				t.Fatalf("%q: got the stacks %v and %v, want %v", w, stacks, takes, wantStacks)
 			}
 		}
