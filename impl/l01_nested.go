@@ -101,6 +101,14 @@ func symbolOf(letter byte) symbol {
 	return symbol(number)
 }
 
+func textOf(symbols []symbol) string {
+	text := ""
+	for _, s := range symbols {
+		text += s.text()
+	}
+	return text
+}
+
 // nested is a word that has been read.
 type nested struct {
 	symbols  []symbol

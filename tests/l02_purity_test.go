@@ -120,6 +120,7 @@ func checkApart(t *testing.T, values []any) {
 }
 
 func TestFunctionsOfCheckersArePure(t *testing.T) {
+	t.Parallel()
 	l := lottery(31)
 	list := append(sampleCheckers(), brokenCheckers()...)
 	words := append(randomWords(1)[:40], "(a[b])", "([b)", "c", strings.Repeat("a", impl.MaxWord+1))

@@ -194,6 +194,7 @@ func eitherByMoves(m, n impl.Choices) impl.Choices {
 }
 
 func TestEitherChoices(t *testing.T) {
+	t.Parallel()
 	words, samples := append(shortWords()[:200], randomWords(1)...), sampleChoices()
 	for i, m := range samples {
 		for k, n := range samples {
@@ -244,6 +245,7 @@ func TestEitherChoicesLimits(t *testing.T) {
 
 // TestWaysAreGone checks short words by going all ways, each with its stack.
 func TestWaysAreGone(t *testing.T) {
+	t.Parallel()
 	l := lottery(59)
 	for _, m := range sampleChoices() {
 		words := slices.Concat(wordsOf(0), wordsOf(1), wordsOf(2))
@@ -278,6 +280,7 @@ func pushCount(m impl.Choices) int {
 }
 
 func TestStatesAfter(t *testing.T) {
+	t.Parallel()
 	words := append(shortWords(), strings.Repeat("([", 15)+strings.Repeat(")]", 15), strings.Repeat("(a]", 20), strings.Repeat("]b(", 20))
 	for i, m := range sampleChoices() {
 		for k, w := range words {

@@ -507,6 +507,7 @@ func TestLongestFirstWordsOfChoices(t *testing.T) {
 }
 
 func TestFirstDifferenceAndAreEqual(t *testing.T) {
+	t.Parallel()
 	l := lottery(73)
 	short, list := allShort(), searchedCheckers()
 	equals := 0

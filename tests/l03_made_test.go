@@ -173,6 +173,7 @@ func TestCheckerOfByHand(t *testing.T) {
 }
 
 func TestCheckerOf(t *testing.T) {
+	t.Parallel()
 	made, words := map[bool]int{}, append(shortWords()[:100], randomWords(1)...)
 	for _, m := range sampleChoices() {
 		want, states := madeByPairs(m, impl.MaxStates)
@@ -191,6 +192,7 @@ func TestCheckerOf(t *testing.T) {
 }
 
 func TestCheckerOfLimits(t *testing.T) {
+	t.Parallel()
 	for size, want := range map[[4]int64]int{
 		{2, 4, 4, 10}: 39, {3, 1, 1, 20}: 40, {3, 1, 2, 8}: 40, {4, 1, 1, 53}: 40, {5, 3, 4, 27}: 40, {5, 4, 4, 53}: 40,
 		{3, 1, 2, 37}: 41, {3, 1, 4, 23}: 41, {4, 1, 1, 11}: 41, {5, 1, 1, 9}: 41, {5, 2, 4, 39}: 41, {4, 1, 1, 46}: 42,

@@ -60,6 +60,7 @@ func roomyChoices(m impl.Choices) impl.Choices {
 }
 
 func TestFunctionsOfChoicesArePure(t *testing.T) {
+	t.Parallel()
 	l := lottery(83)
 	list := append(sampleChoices(), brokenChoices()[:150]...)
 	words := append(randomWords(1)[:40], "(a[b])", "([b)", "", "c", strings.Repeat("a", impl.MaxWord+1))
