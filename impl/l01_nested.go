@@ -2,6 +2,7 @@ package impl
 
 import (
 	"iter"
+	"slices"
 	"strings"
 )
 
@@ -174,6 +175,14 @@ func (n nested) places() iter.Seq2[int64, int64] {
 	}
 }
 
+func (n nested) parents() []int64 {
+	var parents []int64
+	for _, parent := range n.places() {
+		parents = append(parents, parent)
+	}
+	return parents
+}
+
 // pendingPlaces yields the places of the pending returns, and then those of
 // the pending calls, as no pending call stands before a pending return.
 func (n nested) pendingPlaces() iter.Seq2[int64, symbol] {
@@ -193,8 +202,9 @@ func (n nested) isMatched() bool {
 	return true
 }
 
-func (n nested) depths() []int64 {
-	depth := int64(0)
+// depthsFrom returns the depths behind all beginnings if so many calls are open
+// in front.
+func (n nested) depthsFrom(depth int64) []int64 {
 	depths := []int64{depth}
 	for _, s := range n.symbols {
 		// A pending return closes nothing.
@@ -285,7 +295,7 @@ func DepthsOf(w string) ([]int64, int64) {
 	if !valid {
 		return nil, ErrInvalid
 	}
-	return n.depths(), OK
+	return n.depthsFrom(0), OK
 }
 
 // DepthOf returns the greatest depth.
@@ -294,11 +304,7 @@ func DepthOf(w string) (int64, int64) {
 	if !valid {
 		return 0, ErrInvalid
 	}
-	deepest := int64(0)
-	for _, depth := range n.depths() {
-		deepest = max(deepest, depth)
-	}
-	return deepest, OK
+	return slices.Max(n.depthsFrom(0)), OK
 }
 
 // TurnWord returns the turned word.
@@ -426,11 +432,7 @@ func ParentsOf(w string) ([]int64, int64) {
 	if !valid {
 		return nil, ErrInvalid
 	}
-	var parents []int64
-	for _, parent := range n.places() {
-		parents = append(parents, parent)
-	}
-	return parents, OK
+	return n.parents(), OK
 }
 
 // ChildrenOf returns the places with a parent; -1 stands for none.
