@@ -37,19 +37,25 @@ func TestKnownCheckersOfQueries(t *testing.T) {
 	for text, want := range map[string]string{
 		"/a":   "checker 3 3 0\nno 1 0 1 0 0 1 2 0 0 1 2 0 2 0\nno 1 1 1 1 0 1 2 1 0 1 2 1 1 1\nyes 2 2 2 2 2 2 2 2 2 2 2 2 2 2\n",
 		"//.":  "checker 2 2 0\nno 0 0 0 0 0 1 0 0 1 0 1 1\nyes 1 1 1 1 1 1 1 1 1 1 1 1\n",
-		"//[":  "checker 2 2 0\nno 0 0 1 1 0 1 0 0 1 0 0 0\nyes 1 1 1 1 1 1 1 1 1 1 1 1\n",
-		"/*":   "checker 2 2 0\nno 1 1 1 1 0 1 0 0 1 0 0 0\nyes 1 1 1 1 1 1 1 1 1 1 1 1\n",
+		"//[":  "checker 2 2 0\nno 0 0 1 0 0 1 0 0 1 0 0 0\nyes 1 1 1 1 1 1 1 1 1 1 1 1\n",
+		"/*":   "checker 2 2 0\nno 1 0 1 0 0 1 0 0 1 0 0 0\nyes 1 1 1 1 1 1 1 1 1 1 1 1\n",
+		"/(":   "checker 3 3 0\nno 2 0 1 0 0 1 2 0 0 1 2 0 0 0\nno 1 1 1 1 0 1 2 1 0 1 2 1 1 1\nyes 2 2 2 2 2 2 2 2 2 2 2 2 2 2\n",
 		"/[/b": "checker 4 4 0\nno 1 0 2 0 0 1 2 3 0 0 1 2 3 0 0 0\nno 1 1 1 1 0 1 2 3 1 0 1 2 3 1 1 1\nno 1 2 1 2 0 1 2 3 2 0 1 2 3 2 2 3\nyes 3 3 3 3 3 3 3 3 3 3 3 3 3 3 3 3\n",
 	} {
 		c, code := impl.QueryChecker(query(text))
 		expectChecker(t, text, want, c, code)
 	}
+	c, code := impl.QueryChecker(query("/[//*"))
+	expect(t, "calls of /[//*", "[[{1 0} {2 0}] [{1 1} {1 1}] [{3 2} {3 2}] [{3 3} {3 3}]] 0", c.Call, code)
 	none := "checker 3 3 0\nno 1 0 1 0 0 1 2 0 0 1 2 0 0 0\nno 1 1 1 1 0 1 2 1 0 1 2 1 1 1\nyes 2 2 2 2 2 2 2 2 2 2 2 2 2 2\n"
-	c, code := impl.UnlikeChecker(query("/a"), query("/a"))
+	c, code = impl.UnlikeChecker(query("/a"), query("/a"))
 	expectChecker(t, "the same twice", none, c, code)
-	// A call at the outside is an answer of both, and goes on.
+	// A call at the outside is an answer of one of both.
+	c, code = impl.UnlikeChecker(query("/("), query("/["))
+	expectChecker(t, "/( and /[", "checker 2 2 0\nno 1 0 1 0 0 1 0 0 1 0 0 0\nyes 1 1 1 1 1 1 1 1 1 1 1 1\n", c, code)
+	// It is an answer of both, and goes on.
 	c, code = impl.UnlikeChecker(query("/*"), query("//*"))
-	expectChecker(t, "/* and //*", "checker 3 3 0\nno 1 0 1 0 0 1 2 0 0 1 2 0 0 0\nno 2 2 2 2 0 1 2 1 0 1 2 1 1 1\nyes 2 2 2 2 2 2 2 2 2 2 2 2 2 2\n", c, code)
+	expectChecker(t, "/* and //*", "checker 3 3 0\nno 1 0 1 0 0 1 2 0 0 1 2 0 0 0\nno 2 1 2 1 0 1 2 1 0 1 2 1 1 1\nyes 2 2 2 2 2 2 2 2 2 2 2 2 2 2\n", c, code)
 }
 
 // checkChecker compares a checker with one that is made from lists.
@@ -113,6 +119,46 @@ func TestCheckersOfQueriesHaveAtMostMaxStates(t *testing.T) {
 	for text, states := range map[string]int{"//(/*/*/*/*/a": 33, "//[/*/*/*/*/.": 33, "/*//(/*/*/*/a": 18, "//*//*//*//*//*//a": 7, "/(/(/(/(/(/(": 8} {
 		c, code := impl.QueryChecker(query(text))
 		expect(t, text, told(states, 0), len(c.Accept), code)
+	}
+}
+
+// TestCallsPutTheStatesInWhichTheyAreRead compares stacks with the states of runs,
+// also at calls that are answers, and behind them.
+func TestCallsPutTheStatesInWhichTheyAreRead(t *testing.T) {
+	words := queriedWords()
+	answered := 0
+	check := func(name string, c impl.Checker, w string) {
+		states, stack, code := impl.RunOf(c, w)
+		var want []int64
+		for i := range len(w) {
+			switch {
+			case isCall(w[i]):
+				want = append(want, states[i])
+				if c.Accept[states[i+1]] && !c.Accept[states[i]] {
+					answered++
+				}
+			case isReturn(w[i]) && len(want) > 0:
+				want = want[:len(want)-1]
+			}
+		}
+		if code != impl.OK || !slices.Equal(stack, want) {
+			t.Fatalf("%s and %q: got the code %d and the stack %v, want %v", name, w, code, stack, want)
+		}
+	}
+	for number, q := range sampleQueries() {
+		c, _ := impl.QueryChecker(q)
+		for k := number % 17; k < len(words); k += 17 {
+			check(textOfSteps(q), c, words[k])
+		}
+	}
+	for number, pair := range samplePairs() {
+		c, code := impl.UnlikeChecker(pair[0], pair[1])
+		for k := number % 37; k < len(words) && code == impl.OK; k += 37 {
+			check(textOfSteps(pair[0])+" and "+textOfSteps(pair[1]), c, words[k])
+		}
+	}
+	if answered < 1000 {
+		t.Errorf("%d calls are answers", answered)
 	}
 }
 

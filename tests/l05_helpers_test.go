@@ -401,9 +401,7 @@ func checkerBySights(queries []impl.Query) impl.Checker {
 			return int64(slices.IndexFunc(met, func(s sights) bool { return sameLists(s, next) }))
 		}
 		for kind := range 2 {
-			if to := goTo("(["[kind]); to != last {
-				c.Call[state][kind] = impl.Push{To: to, Put: int64(state)}
-			}
+			c.Call[state][kind] = impl.Push{To: goTo("(["[kind]), Put: int64(state)}
 			c.Inner[state][kind] = goTo("ab"[kind])
 			c.Return[state][kind] = nil
 			for mark := range last + 1 {
