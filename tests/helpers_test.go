@@ -33,7 +33,7 @@ func expectError(t *testing.T, name string, want, got int64, results ...any) {
 	for _, r := range results {
 		switch s := told(r); s {
 		case "", "0", "false", "[]", told(impl.Checker{}), told(impl.Choices{}), told(impl.Algebra{}), told(impl.Context{}),
-			told(impl.Query{}), told(impl.Watcher{}), told(impl.Rewriter{}), told(impl.TreeEdit{}):
+			told(impl.Query{}), told(impl.Watcher{}), told(impl.Rewriter{}), told(impl.TreeEdit{}), told(impl.Program{}), told(impl.Place{}):
 		default:
 			t.Errorf("%s: got %s together with an error", name, s)
 		}
@@ -99,6 +99,24 @@ func noWords() []string {
 		strings.Repeat("()", impl.MaxWord/2) + "]", strings.Repeat("(", impl.MaxWord+1),
 		strings.Repeat("(", 10000), strings.Repeat("ab", 500000), strings.Repeat("\xfe", 1000000),
 	}
+}
+
+// textsWithOneChange returns the beginnings and ends of a text, and those that come
+// of it by leaving a letter or a line out, or by putting one in or in place of
+// another one.
+func textsWithOneChange(text, letters string) []string {
+	var list []string
+	for i := range len(text) {
+		list = append(list, text[:i], text[i:], text[:i]+text[i+1:])
+		for _, letter := range letters {
+			list = append(list, text[:i]+string(letter)+text[i:], text[:i]+string(letter)+text[i+1:])
+		}
+	}
+	lines := strings.SplitAfter(text, "\n")
+	for i, line := range lines {
+		list = append(list, strings.Join(slices.Delete(slices.Clone(lines), i, i+1), ""), strings.Join(slices.Insert(slices.Clone(lines), i, line), ""))
+	}
+	return list
 }
 
 // farNumbers returns numbers in and far outside of all ranges.

@@ -3,7 +3,6 @@ package tests
 import (
 	"math"
 	"regexp"
-	"slices"
 	"strconv"
 	"strings"
 	"testing"
@@ -197,19 +196,8 @@ func checkReading(t *testing.T, text string) {
 func TestTextsWithOneChange(t *testing.T) {
 	l := lottery(3)
 	for _, text := range []string{smallestText, impl.CheckerText(l.checker(2, 1)), impl.CheckerText(l.checker(11, 2)), impl.CheckerText(impl.MatchedChecker())} {
-		for i := range len(text) {
-			checkReading(t, text[:i])
-			checkReading(t, text[i:])
-			checkReading(t, text[:i]+text[i+1:])
-			for _, letter := range "0123489+- \n\tyn_.\x00" {
-				checkReading(t, text[:i]+string(letter)+text[i:])
-				checkReading(t, text[:i]+string(letter)+text[i+1:])
-			}
-		}
-		lines := strings.SplitAfter(text, "\n")
-		for i, line := range lines {
-			checkReading(t, strings.Join(slices.Delete(slices.Clone(lines), i, i+1), ""))
-			checkReading(t, strings.Join(slices.Insert(slices.Clone(lines), i, line), ""))
+		for _, changed := range textsWithOneChange(text, "0123489+- \n\tyn_.\x00") {
+			checkReading(t, changed)
 		}
 	}
 }

@@ -211,14 +211,8 @@ func TestTextsOfNoEdit(t *testing.T) {
 func TestTextsOfEditsWithOneChange(t *testing.T) {
 	for _, text := range []string{"put 0 -", "put 12 (a[b])", "put 60 a", "cut 0", "cut 59", "open 3", "wrap 1 2 ()", "wrap 60 10 [)", "name 6 (]", "name 45 []"} {
 		checkReadingOfEdit(t, text+text)
-		for i := range len(text) {
-			checkReadingOfEdit(t, text[:i])
-			checkReadingOfEdit(t, text[i:])
-			checkReadingOfEdit(t, text[:i]+text[i+1:])
-			for _, letter := range "01256789+- \n\tptc.([)]abc\x00" {
-				checkReadingOfEdit(t, text[:i]+string(letter)+text[i:])
-				checkReadingOfEdit(t, text[:i]+string(letter)+text[i+1:])
-			}
+		for _, changed := range textsWithOneChange(text, "01256789+- \n\tptc.([)]abc\x00") {
+			checkReadingOfEdit(t, changed)
 		}
 		for _, word := range []string{"put", "cut", "open", "wrap", "name", "-", "0", "60", "61", "()", "a", ""} {
 			words := strings.Split(text, " ")
