@@ -33,7 +33,8 @@ func expectError(t *testing.T, name string, want, got int64, results ...any) {
 	for _, r := range results {
 		switch s := told(r); s {
 		case "", "0", "false", "[]", told(impl.Checker{}), told(impl.Choices{}), told(impl.Algebra{}), told(impl.Context{}),
-			told(impl.Query{}), told(impl.Watcher{}), told(impl.Rewriter{}), told(impl.TreeEdit{}), told(impl.Program{}), told(impl.Place{}):
+			told(impl.Query{}), told(impl.Watcher{}), told(impl.Rewriter{}), told(impl.TreeEdit{}), told(impl.Program{}), told(impl.Place{}),
+			told(impl.Deed{}), told(impl.Plant{}):
 		default:
 			t.Errorf("%s: got %s together with an error", name, s)
 		}
